@@ -89,15 +89,15 @@ func isConflict(wishes []impl.Wish) bool {
 }
 
 // orders are all the ways to arrange some wishes.
-func orders(wishes []impl.Wish) [][]impl.Wish {
-	if len(wishes) == 0 {
-		return [][]impl.Wish{nil}
+func orders[T any](items []T) [][]T {
+	if len(items) == 0 {
+		return [][]T{nil}
 	}
-	var lists [][]impl.Wish
-	for i, first := range wishes {
-		rest := slices.Concat(wishes[:i], wishes[i+1:])
+	var lists [][]T
+	for i, first := range items {
+		rest := slices.Concat(items[:i], items[i+1:])
 		for _, list := range orders(rest) {
-			lists = append(lists, append([]impl.Wish{first}, list...))
+			lists = append(lists, append([]T{first}, list...))
 		}
 	}
 	return lists
